@@ -1,0 +1,166 @@
+package page
+
+import "flatbed/api"
+
+const (
+	values    = 256
+	white     = values - 1
+	maxRadius = 200
+)
+
+// ToBits returns a page with ink where the value is less than level.
+func ToBits(g api.Gray, level int) (api.Bits, api.Errno) {
+	if e := CheckGray(g); e != api.OK {
+		return api.Bits{}, e
+	}
+	if level < 0 || level > values {
+		return api.Bits{}, api.ErrRange
+	}
+	p := fill(g.W, g.H, func(x, y int) bool { return int(g.P[y*g.W+x]) < level })
+	return api.Bits{W: g.W, H: g.H, P: p}, api.OK
+}
+
+// ToGray returns a page that is black where ink is, otherwise white.
+func ToGray(b api.Bits) (api.Gray, api.Errno) {
+	if e := CheckBits(b); e != api.OK {
+		return api.Gray{}, e
+	}
+	p := fill(b.W, b.H, func(x, y int) byte {
+		if b.P[y*b.W+x] {
+			return 0
+		}
+		return white
+	})
+	return api.Gray{W: b.W, H: b.H, P: p}, api.OK
+}
+
+// Histogram returns how many pixels have each of the 256 values.
+func Histogram(g api.Gray) ([]int, api.Errno) {
+	if e := CheckGray(g); e != api.OK {
+		return nil, e
+	}
+	counts := make([]int, values)
+	for _, v := range g.P {
+		counts[v]++
+	}
+	return counts, api.OK
+}
+
+// Ink counts the ink in a box.
+func Ink(b api.Bits, box api.Box) (int, api.Errno) {
+	if e := CheckBits(b); e != api.OK {
+		return 0, e
+	}
+	if e := checkBox(b.W, b.H, box); e != api.OK {
+		return 0, e
+	}
+	n := 0
+	for y := box.Y; y < box.Y+box.H; y++ {
+		for x := box.X; x < box.X+box.W; x++ {
+			if b.P[y*b.W+x] {
+				n++
+			}
+		}
+	}
+	return n, api.OK
+}
+
+// Rows counts the ink of each row.
+func Rows(b api.Bits) ([]int, api.Errno) {
+	if e := CheckBits(b); e != api.OK {
+		return nil, e
+	}
+	counts := make([]int, b.H)
+	eachInk(b, func(x, y int) { counts[y]++ })
+	return counts, api.OK
+}
+
+// Columns counts the ink of each column.
+func Columns(b api.Bits) ([]int, api.Errno) {
+	if e := CheckBits(b); e != api.OK {
+		return nil, e
+	}
+	counts := make([]int, b.W)
+	eachInk(b, func(x, y int) { counts[x]++ })
+	return counts, api.OK
+}
+
+// Bounds returns the least box that has all ink.
+func Bounds(b api.Bits) (api.Box, api.Errno) {
+	if e := CheckBits(b); e != api.OK {
+		return api.Box{}, e
+	}
+	left, top, right, bottom := b.W, b.H, -1, -1
+	eachInk(b, func(x, y int) {
+		left, right = min(left, x), max(right, x)
+		top, bottom = min(top, y), max(bottom, y)
+	})
+	if right < 0 {
+		return api.Box{}, api.ErrNone
+	}
+	return api.Box{X: left, Y: top, W: right - left + 1, H: bottom - top + 1}, api.OK
+}
+
+// eachInk calls visit for each pixel with ink.
+func eachInk(b api.Bits, visit func(x, y int)) {
+	for y := range b.H {
+		for x := range b.W {
+			if b.P[y*b.W+x] {
+				visit(x, y)
+			}
+		}
+	}
+}
+
+// Differ counts the places at which two pages of the same size differ.
+func Differ(a, b api.Bits) (int, api.Errno) {
+	if e := CheckBits(a); e != api.OK {
+		return 0, e
+	}
+	if e := CheckBits(b); e != api.OK {
+		return 0, e
+	}
+	if a.W != b.W || a.H != b.H {
+		return 0, api.ErrConflict
+	}
+	n := 0
+	for i, ink := range a.P {
+		if ink != b.P[i] {
+			n++
+		}
+	}
+	return n, api.OK
+}
+
+// Means returns for each pixel the mean of the square around it, as far as that is in the page.
+func Means(g api.Gray, radius int) ([]int, api.Errno) {
+	if e := CheckGray(g); e != api.OK {
+		return nil, e
+	}
+	if radius < 0 || radius > maxRadius {
+		return nil, api.ErrRange
+	}
+	sums := sumsBefore(g)
+	before := func(x, y int) int { return sums[y*(g.W+1)+x] }
+	return fill(g.W, g.H, func(x, y int) int {
+		left, right := max(x-radius, 0), min(x+radius+1, g.W)
+		top, bottom := max(y-radius, 0), min(y+radius+1, g.H)
+		sum := before(right, bottom) - before(left, bottom) - before(right, top) + before(left, top)
+		return rounded(sum, (right-left)*(bottom-top))
+	}), api.OK
+}
+
+// sumsBefore returns, for each corner between pixels, row by row, the sum of all pixels above and left of it.
+// With it the sum of a square takes four steps, however large the square is.
+func sumsBefore(g api.Gray) []int {
+	step := g.W + 1
+	sums := make([]int, step*(g.H+1))
+	for y := range g.H {
+		row := 0
+		for x := range g.W {
+			row += int(g.P[y*g.W+x])
+			sums[(y+1)*step+x+1] = sums[y*step+x+1] + row
+		}
+	}
+	return sums
+}

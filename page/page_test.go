@@ -1,0 +1,61 @@
+package page_test
+
+import (
+	"strings"
+	"testing"
+
+	"flatbed/api"
+	"flatbed/page"
+)
+
+func wantChecked(t *testing.T, size [2]int, pixels int, want api.Errno) {
+	t.Helper()
+	if e := page.CheckGray(api.Gray{W: size[0], H: size[1], P: make([]byte, pixels)}); e != want {
+		t.Errorf("CheckGray %v with %d pixels: %d, want %d", size, pixels, e, want)
+	}
+	if e := page.CheckBits(api.Bits{W: size[0], H: size[1], P: make([]bool, pixels)}); e != want {
+		t.Errorf("CheckBits %v with %d pixels: %d, want %d", size, pixels, e, want)
+	}
+}
+
+func TestCheckSizes(t *testing.T) {
+	for size, want := range badSizes() {
+		wantChecked(t, size, 0, want)
+		wantChecked(t, size, 3, want)
+	}
+	for _, size := range goodSizes() {
+		n := size[0] * size[1]
+		wantChecked(t, size, n, api.OK)
+		wantChecked(t, size, n-1, api.ErrForm)
+		wantChecked(t, size, n+1, api.ErrForm)
+		wantChecked(t, size, 0, api.ErrForm)
+	}
+}
+
+func TestIsName(t *testing.T) {
+	long := strings.Repeat("a", 40)
+	for _, s := range []string{"a", "z", "a1", "b0", "z9", "a-", "a--b", "x-1-y", long, long[1:] + "9"} {
+		if !page.IsName(s) {
+			t.Errorf("%q is a name", s)
+		}
+	}
+	for _, s := range []string{"", "1", "1a", "0", "-", "-a", "A", "aB", "Za", "a b", " a", "a ", "a_b", "a.b",
+		"a\n", "a\x00", "\x00", "a`", "a{", "`a", "{a", "a/", "a:", "a,", "ä", "aä", "a\xff", long + "a", long + "\n"} {
+		if page.IsName(s) {
+			t.Errorf("%q is no name", s)
+		}
+	}
+}
+
+func TestBlank(t *testing.T) {
+	for _, size := range append(goodSizes(), [2]int{3, 2}) {
+		b, e := page.Blank(size[0], size[1])
+		if e != api.OK || !sameBits(b, plain(size[0], size[1])) {
+			t.Error(size, b.W, b.H, len(b.P), e)
+		}
+	}
+	for size, want := range badSizes() {
+		b, e := page.Blank(size[0], size[1])
+		failBits(t, "Blank", b, e, want)
+	}
+}

@@ -1,0 +1,65 @@
+package page
+
+import (
+	"strings"
+
+	"flatbed/api"
+)
+
+// A text of the largest page that is printed has a line feed in each row.
+const (
+	maxPrinted = 200
+	maxDrawing = maxPrinted * (maxPrinted + 1)
+)
+
+// Print writes a page as lines, a row each.
+func Print(b api.Bits) (string, api.Errno) {
+	if e := CheckBits(b); e != api.OK {
+		return "", e
+	}
+	if b.W > maxPrinted || b.H > maxPrinted {
+		return "", api.ErrLarge
+	}
+	text := fill(b.W+1, b.H, func(x, y int) byte {
+		switch {
+		case x == b.W:
+			return '\n'
+		case b.P[y*b.W+x]:
+			return '#'
+		}
+		return '.'
+	})
+	return string(text), api.OK
+}
+
+// Parse reads what Print writes; the second result is the number of the line with ErrSyntax, otherwise 0.
+func Parse(text string) (api.Bits, int, api.Errno) {
+	if len(text) > maxDrawing {
+		return api.Bits{}, 0, api.ErrLarge
+	}
+	w, h := strings.IndexByte(text, '\n'), 0
+	for rest := text; rest != ""; h++ {
+		line, after, ended := strings.Cut(rest, "\n")
+		if !ended || len(line) != w || !isRow(line) {
+			return api.Bits{}, h, api.ErrSyntax
+		}
+		rest = after
+	}
+	if h == 0 {
+		return api.Bits{}, 0, api.ErrEmpty
+	}
+	if w > maxPrinted || h > maxPrinted {
+		return api.Bits{}, 0, api.ErrLarge
+	}
+	p := fill(w, h, func(x, y int) bool { return text[y*(w+1)+x] == '#' })
+	return api.Bits{W: w, H: h, P: p}, 0, api.OK
+}
+
+func isRow(line string) bool {
+	for i := range len(line) {
+		if line[i] != '#' && line[i] != '.' {
+			return false
+		}
+	}
+	return line != ""
+}

@@ -1,0 +1,116 @@
+package page_test
+
+import (
+	"strings"
+	"testing"
+
+	"flatbed/api"
+	"flatbed/page"
+)
+
+func TestPrint(t *testing.T) {
+	for _, c := range []struct {
+		page api.Bits
+		want string
+	}{
+		{draw("#"), "#\n"},
+		{draw("."), ".\n"},
+		{draw("#.#", "..#"), "#.#\n..#\n"},
+		{draw("#", ".", "#"), "#\n.\n#\n"},
+		{plain(200, 200), strings.Repeat(strings.Repeat(".", 200)+"\n", 200)},
+	} {
+		if s, e := page.Print(c.page); s != c.want || e != api.OK {
+			t.Errorf("%q %d; want %q", s, e, c.want)
+		}
+	}
+	for _, b := range []api.Bits{plain(201, 1), plain(1, 201), plain(201, 201), plain(4000, 200)} {
+		if s, e := page.Print(b); s != "" || e != api.ErrLarge {
+			t.Errorf("%d by %d: %q %d", b.W, b.H, s, e)
+		}
+	}
+}
+
+func TestParse(t *testing.T) {
+	for text, want := range map[string]api.Bits{
+		"#\n":              draw("#"),
+		".\n":              draw("."),
+		"#.#\n..#\n":       draw("#.#", "..#"),
+		"#\n.\n.\n#\n":     draw("#", ".", ".", "#"),
+		"..\n##\n.#\n":     draw("..", "##", ".#"),
+		"#......\n":        draw("#......"),
+		"......\n....##\n": draw("......", "....##"),
+	} {
+		x, at, e := page.Parse(text)
+		wantBits(t, text, x, e, want)
+		if at != 0 {
+			t.Errorf("%q: line %d", text, at)
+		}
+	}
+	largest := strings.Repeat(strings.Repeat("#", 200)+"\n", 200)
+	x, _, e := page.Parse(largest)
+	if n, _ := page.Ink(x, api.Box{W: 200, H: 200}); e != api.OK || n != 40000 {
+		t.Error(n, e)
+	}
+}
+
+func TestParseErrors(t *testing.T) {
+	row := strings.Repeat(".", 200) + "\n"
+	wide := strings.Repeat("#", 201) + "\n"
+	for _, c := range []struct {
+		text string
+		at   int
+		want api.Errno
+	}{
+		{"", 0, api.ErrEmpty},
+		{"\n", 0, api.ErrSyntax},
+		{"\n\n", 0, api.ErrSyntax},
+		{"#", 0, api.ErrSyntax},
+		{"##\n##", 1, api.ErrSyntax},
+		{"##\n#", 1, api.ErrSyntax},
+		{"##\n#\n", 1, api.ErrSyntax},
+		{"##\n###\n", 1, api.ErrSyntax},
+		{"##\n##\n\n", 2, api.ErrSyntax},
+		{"##\n\n##\n", 1, api.ErrSyntax},
+		{"\n##\n", 0, api.ErrSyntax},
+		{"##\n.x\n", 1, api.ErrSyntax},
+		{"x#\n##\n", 0, api.ErrSyntax},
+		{"##\r\n##\r\n", 0, api.ErrSyntax},
+		{"##\n# \n", 1, api.ErrSyntax},
+		{"##\n#\x00\n#\n", 1, api.ErrSyntax},
+		{"##\n##\n#\xff\n#\n", 2, api.ErrSyntax},
+		{strings.Repeat(".\n", 200), 0, api.OK},
+		{strings.Repeat(".\n", 201), 0, api.ErrLarge},
+		{wide, 0, api.ErrLarge},
+		{wide + wide, 0, api.ErrLarge},
+		{wide + "#\n", 1, api.ErrSyntax},
+		{strings.Repeat(".\n", 300) + "..\n", 300, api.ErrSyntax},
+		{strings.Repeat(".\n", 300) + ".", 300, api.ErrSyntax},
+		{strings.Repeat(row, 200), 0, api.OK},
+		{strings.Repeat(row, 200) + ".", 0, api.ErrLarge},
+		{strings.Repeat("x", 40201), 0, api.ErrLarge},
+		{strings.Repeat("x", 40200), 0, api.ErrSyntax},
+		{strings.Repeat("#", 40200), 0, api.ErrSyntax},
+		{strings.Repeat("#", 40199) + "\n", 0, api.ErrLarge},
+		{strings.Repeat(row, 199) + strings.Repeat(".", 201), 199, api.ErrSyntax},
+	} {
+		x, at, e := page.Parse(c.text)
+		if at != c.at || e != c.want {
+			t.Errorf("%.20q (%d bytes): line %d, error %d; want %d, %d", c.text, len(c.text), at, e, c.at, c.want)
+		}
+		if e != api.OK && !sameBits(x, api.Bits{}) {
+			t.Errorf("%.20q: a page with an error", c.text)
+		}
+	}
+}
+
+func TestParseOfPrint(t *testing.T) {
+	for _, size := range [][2]int{{1, 1}, {200, 1}, {1, 200}, {200, 200}, {17, 9}} {
+		b := mixedBits(size[0], size[1])
+		text, _ := page.Print(b)
+		x, at, e := page.Parse(text)
+		wantBits(t, "Parse of Print", x, e, b)
+		if at != 0 {
+			t.Error(at)
+		}
+	}
+}
