@@ -16,7 +16,7 @@ func ToBits(g api.Gray, level int) (api.Bits, api.Errno) {
 	if level < 0 || level > values {
 		return api.Bits{}, api.ErrRange
 	}
-	p := fill(g.W, g.H, func(x, y int) bool { return int(g.P[y*g.W+x]) < level })
+	p := Fill(g.W, g.H, func(x, y int) bool { return int(g.P[y*g.W+x]) < level })
 	return api.Bits{W: g.W, H: g.H, P: p}, api.OK
 }
 
@@ -25,7 +25,7 @@ func ToGray(b api.Bits) (api.Gray, api.Errno) {
 	if e := CheckBits(b); e != api.OK {
 		return api.Gray{}, e
 	}
-	p := fill(b.W, b.H, func(x, y int) byte {
+	p := Fill(b.W, b.H, func(x, y int) byte {
 		if b.P[y*b.W+x] {
 			return 0
 		}
@@ -140,25 +140,35 @@ func Means(g api.Gray, radius int) ([]int, api.Errno) {
 	if radius < 0 || radius > maxRadius {
 		return nil, api.ErrRange
 	}
-	sums := sumsBefore(g)
-	before := func(x, y int) int { return sums[y*(g.W+1)+x] }
-	return fill(g.W, g.H, func(x, y int) int {
-		left, right := max(x-radius, 0), min(x+radius+1, g.W)
-		top, bottom := max(y-radius, 0), min(y+radius+1, g.H)
-		sum := before(right, bottom) - before(left, bottom) - before(right, top) + before(left, top)
-		return rounded(sum, (right-left)*(bottom-top))
+	around := Around(g.W, g.H, radius, func(x, y int) int { return int(g.P[y*g.W+x]) })
+	return Fill(g.W, g.H, func(x, y int) int {
+		sum, count := around(x, y)
+		return Rounded(sum, count)
 	}), api.OK
 }
 
-// sumsBefore returns, for each corner between pixels, row by row, the sum of all pixels above and left of it.
+// Around returns a function for the square around a pixel up to radius, as far as it is in a page of w by h: the sum of
+// the values that value tells of its pixels, and how many they are. It leaves the check of all numbers to its caller.
+func Around(w, h, radius int, value func(x, y int) int) func(x, y int) (sum, count int) {
+	sums := sumsBefore(w, h, value)
+	before := func(x, y int) int { return sums[y*(w+1)+x] }
+	return func(x, y int) (sum, count int) {
+		left, right := max(x-radius, 0), min(x+radius+1, w)
+		top, bottom := max(y-radius, 0), min(y+radius+1, h)
+		sum = before(right, bottom) - before(left, bottom) - before(right, top) + before(left, top)
+		return sum, (right - left) * (bottom - top)
+	}
+}
+
+// sumsBefore returns, for each corner between pixels, row by row, the sum of all values above and left of it.
 // With it the sum of a square takes four steps, however large the square is.
-func sumsBefore(g api.Gray) []int {
-	step := g.W + 1
-	sums := make([]int, step*(g.H+1))
-	for y := range g.H {
+func sumsBefore(w, h int, value func(x, y int) int) []int {
+	step := w + 1
+	sums := make([]int, step*(h+1))
+	for y := range h {
 		row := 0
-		for x := range g.W {
-			row += int(g.P[y*g.W+x])
+		for x := range w {
+			row += value(x, y)
 			sums[(y+1)*step+x+1] = sums[y*step+x+1] + row
 		}
 	}

@@ -44,7 +44,7 @@ func Pack(b api.Bits) ([]byte, api.Errno) {
 	if e := CheckBits(b); e != api.OK {
 		return nil, e
 	}
-	rows := fill(rowBytes(b.W), b.H, func(x, y int) byte {
+	rows := Fill(rowBytes(b.W), b.H, func(x, y int) byte {
 		row := b.P[y*b.W : (y+1)*b.W]
 		return packed(row[8*x : min(8*x+8, b.W)])
 	})
@@ -63,7 +63,7 @@ func Unpack(b []byte) (api.Bits, api.Errno) {
 	if e := checkSize(w, h); e != api.OK {
 		return api.Bits{}, e
 	}
-	p := fill(w, h, func(x, y int) bool {
+	p := Fill(w, h, func(x, y int) bool {
 		return rows[y*rowBytes(w)+x/8]&(0x80>>(x%8)) != 0
 	})
 	return api.Bits{W: w, H: h, P: p}, api.OK

@@ -65,8 +65,8 @@ func Blank(w, h int) (api.Bits, api.Errno) {
 	return api.Bits{W: w, H: h, P: make([]bool, w*h)}, api.OK
 }
 
-// fill makes w by h values, row by row, as at tells them.
-func fill[T any](w, h int, at func(x, y int) T) []T {
+// Fill makes w by h values, row by row, as at tells them; it leaves the check of the size to its caller.
+func Fill[T any](w, h int, at func(x, y int) T) []T {
 	p := make([]T, 0, w*h)
 	for y := range h {
 		for x := range w {
@@ -76,5 +76,5 @@ func fill[T any](w, h int, at func(x, y int) T) []T {
 	return p
 }
 
-// rounded is a / b, rounded; a is not negative, and b is positive.
-func rounded(a, b int) int { return (2*a + b) / (2 * b) }
+// Rounded is a / b, rounded; a is not negative, and b is positive.
+func Rounded(a, b int) int { return (2*a + b) / (2 * b) }

@@ -31,7 +31,7 @@ func CutGray(g api.Gray, box api.Box) (api.Gray, api.Errno) {
 }
 
 func cut[T any](p []T, w int, box api.Box) []T {
-	return fill(box.W, box.H, func(x, y int) T { return p[(box.Y+y)*w+box.X+x] })
+	return Fill(box.W, box.H, func(x, y int) T { return p[(box.Y+y)*w+box.X+x] })
 }
 
 // Turn turns a page to the right by quarters.
@@ -56,11 +56,11 @@ func TurnGray(g api.Gray, quarters int) (api.Gray, api.Errno) {
 func turn[T any](p []T, w, h, quarters int) (int, int, []T) {
 	switch (quarters%4 + 4) % 4 {
 	case 1:
-		return h, w, fill(h, w, func(x, y int) T { return p[(h-1-x)*w+y] })
+		return h, w, Fill(h, w, func(x, y int) T { return p[(h-1-x)*w+y] })
 	case 2:
-		return w, h, fill(w, h, func(x, y int) T { return p[(h-1-y)*w+w-1-x] })
+		return w, h, Fill(w, h, func(x, y int) T { return p[(h-1-y)*w+w-1-x] })
 	case 3:
-		return h, w, fill(h, w, func(x, y int) T { return p[x*w+w-1-y] })
+		return h, w, Fill(h, w, func(x, y int) T { return p[x*w+w-1-y] })
 	}
 	return w, h, slices.Clone(p)
 }
@@ -70,7 +70,7 @@ func Mirror(b api.Bits) (api.Bits, api.Errno) {
 	if e := CheckBits(b); e != api.OK {
 		return api.Bits{}, e
 	}
-	p := fill(b.W, b.H, func(x, y int) bool { return b.P[y*b.W+b.W-1-x] })
+	p := Fill(b.W, b.H, func(x, y int) bool { return b.P[y*b.W+b.W-1-x] })
 	return api.Bits{W: b.W, H: b.H, P: p}, api.OK
 }
 
@@ -79,7 +79,7 @@ func Invert(b api.Bits) (api.Bits, api.Errno) {
 	if e := CheckBits(b); e != api.OK {
 		return api.Bits{}, e
 	}
-	p := fill(b.W, b.H, func(x, y int) bool { return !b.P[y*b.W+x] })
+	p := Fill(b.W, b.H, func(x, y int) bool { return !b.P[y*b.W+x] })
 	return api.Bits{W: b.W, H: b.H, P: p}, api.OK
 }
 
@@ -89,7 +89,7 @@ func Halve(g api.Gray) (api.Gray, api.Errno) {
 		return api.Gray{}, e
 	}
 	w, h := (g.W+1)/2, (g.H+1)/2
-	p := fill(w, h, func(x, y int) byte { return meanOfFour(g, 2*x, 2*y) })
+	p := Fill(w, h, func(x, y int) byte { return meanOfFour(g, 2*x, 2*y) })
 	return api.Gray{W: w, H: h, P: p}, api.OK
 }
 
@@ -102,7 +102,7 @@ func meanOfFour(g api.Gray, left, top int) byte {
 			count++
 		}
 	}
-	return byte(rounded(sum, count))
+	return byte(Rounded(sum, count))
 }
 
 // Grow makes of each pixel times by times ones.
@@ -117,7 +117,7 @@ func Grow(b api.Bits, times int) (api.Bits, api.Errno) {
 	if e := checkSize(w, h); e != api.OK {
 		return api.Bits{}, e
 	}
-	p := fill(w, h, func(x, y int) bool { return b.P[y/times*b.W+x/times] })
+	p := Fill(w, h, func(x, y int) bool { return b.P[y/times*b.W+x/times] })
 	return api.Bits{W: w, H: h, P: p}, api.OK
 }
 

@@ -20,7 +20,7 @@ func Print(b api.Bits) (string, api.Errno) {
 	if b.W > maxPrinted || b.H > maxPrinted {
 		return "", api.ErrLarge
 	}
-	text := fill(b.W+1, b.H, func(x, y int) byte {
+	text := Fill(b.W+1, b.H, func(x, y int) byte {
 		switch {
 		case x == b.W:
 			return '\n'
@@ -51,7 +51,7 @@ func Parse(text string) (api.Bits, int, api.Errno) {
 	if w > maxPrinted || h > maxPrinted {
 		return api.Bits{}, 0, api.ErrLarge
 	}
-	p := fill(w, h, func(x, y int) bool { return text[y*(w+1)+x] == '#' })
+	p := Fill(w, h, func(x, y int) bool { return text[y*(w+1)+x] == '#' })
 	return api.Bits{W: w, H: h, P: p}, 0, api.OK
 }
 
