@@ -16,7 +16,7 @@ func Stretch(g api.Gray, low, high int) (api.Gray, api.Errno) {
 	if e := page.CheckGray(g); e != api.OK {
 		return api.Gray{}, e
 	}
-	if outside(low, 0, white) || outside(high, 0, white) {
+	if page.Outside(low, 0, white) || page.Outside(high, 0, white) {
 		return api.Gray{}, api.ErrRange
 	}
 	if low >= high {
@@ -34,7 +34,7 @@ func Middle(g api.Gray, radius int) (api.Gray, api.Errno) {
 	if e := page.CheckGray(g); e != api.OK {
 		return api.Gray{}, e
 	}
-	if outside(radius, 0, maxMiddleRadius) {
+	if page.Outside(radius, 0, maxMiddleRadius) {
 		return api.Gray{}, api.ErrRange
 	}
 	p := make([]byte, 0, len(g.P))
@@ -50,7 +50,7 @@ func appendMiddles(p []byte, g api.Gray, y, radius int) []byte {
 	n := 0
 	top, bottom := max(y-radius, 0), min(y+radius+1, g.H)
 	count := func(x, by int) {
-		if outside(x, 0, g.W-1) {
+		if page.Outside(x, 0, g.W-1) {
 			return
 		}
 		for row := top; row < bottom; row++ {
@@ -84,7 +84,7 @@ func Even(g api.Gray, step int) (api.Gray, api.Errno) {
 	if e := page.CheckGray(g); e != api.OK {
 		return api.Gray{}, e
 	}
-	if outside(step, 1, api.MaxSide) {
+	if page.Outside(step, 1, api.MaxSide) {
 		return api.Gray{}, api.ErrRange
 	}
 	across := (g.W + step - 1) / step

@@ -35,7 +35,7 @@ func byInkAround(b api.Bits, radius, least int) (api.Bits, api.Errno) {
 	if e := page.CheckBits(b); e != api.OK {
 		return api.Bits{}, e
 	}
-	if outside(radius, 0, maxInkRadius) {
+	if page.Outside(radius, 0, maxInkRadius) {
 		return api.Bits{}, api.ErrRange
 	}
 	ink := page.Around(b.W, b.H, radius, func(x, y int) int {

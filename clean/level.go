@@ -75,7 +75,7 @@ func Local(g api.Gray, radius, part int) (api.Bits, api.Errno) {
 	if e := page.CheckGray(g); e != api.OK {
 		return api.Bits{}, e
 	}
-	if outside(radius, 1, maxLocalRadius) || outside(part, 0, wholePart) {
+	if page.Outside(radius, 1, maxLocalRadius) || page.Outside(part, 0, wholePart) {
 		return api.Bits{}, api.ErrRange
 	}
 	value := func(x, y int) int { return int(g.P[y*g.W+x]) }

@@ -33,14 +33,14 @@ func change(b api.Bits, most int, ink bool, wanted func(group []int) bool) (api.
 	if e := page.CheckBits(b); e != api.OK {
 		return api.Bits{}, 0, e
 	}
-	if outside(most, 0, api.MaxPixels) {
+	if page.Outside(most, 0, api.MaxPixels) {
 		return api.Bits{}, 0, api.ErrRange
 	}
-	n, p, joined := 0, slices.Clone(b.P), bySides
+	n, p, joined := 0, slices.Clone(b.P), BySides
 	if ink {
-		joined = byNeighbours
+		joined = ByNeighbours
 	}
-	eachGroup(b, ink, joined, func(group []int) {
+	EachGroup(b, ink, joined, func(group []int) {
 		if !wanted(group) {
 			return
 		}
@@ -52,9 +52,10 @@ func change(b api.Bits, most int, ink bool, wanted func(group []int) bool) (api.
 	return api.Bits{W: b.W, H: b.H, P: p}, n, api.OK
 }
 
-// eachGroup calls visit with the places of each group of pixels of one colour that are joined. They are told during the
-// call only, as the next group takes their memory.
-func eachGroup(b api.Bits, ink bool, joined int, visit func(group []int)) {
+// EachGroup calls visit with the places of each group of pixels of one colour that are joined: by neighbours or by sides.
+// The groups come in the order of their first pixels, row by row, each with its first pixel first. The places are told
+// during the call only, as the next group takes their memory. It leaves the check of the page to its caller.
+func EachGroup(b api.Bits, ink bool, joined int, visit func(group []int)) {
 	seen := make([]bool, len(b.P))
 	var group []int
 	take := func(at int) {

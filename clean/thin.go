@@ -14,7 +14,7 @@ func Thin(b api.Bits, most int) (api.Bits, int, api.Errno) {
 	if e := page.CheckBits(b); e != api.OK {
 		return api.Bits{}, 0, e
 	}
-	if outside(most, 0, maxRounds) {
+	if page.Outside(most, 0, maxRounds) {
 		return api.Bits{}, 0, api.ErrRange
 	}
 	t := newThinner(b)
@@ -78,7 +78,7 @@ func (t *thinner) step(step int) bool {
 		t.ink[at] = false
 	}
 	for _, at := range gone {
-		eachAround(t.w, t.h, at, byNeighbours, func(_, place int) { t.look(place) })
+		eachAround(t.w, t.h, at, ByNeighbours, func(_, place int) { t.look(place) })
 	}
 	return len(gone) > 0
 }
@@ -86,7 +86,7 @@ func (t *thinner) step(step int) bool {
 // neighbours tells which ones are ink; those outside of the page are not.
 func (t *thinner) neighbours(at int) [8]bool {
 	var n [8]bool
-	eachAround(t.w, t.h, at, byNeighbours, func(i, place int) { n[i] = t.ink[place] })
+	eachAround(t.w, t.h, at, ByNeighbours, func(i, place int) { n[i] = t.ink[place] })
 	return n
 }
 
@@ -100,7 +100,7 @@ func goes(n [8]bool, step int) bool {
 			begins++
 		}
 	}
-	if outside(count, 2, 6) || begins != 1 {
+	if page.Outside(count, 2, 6) || begins != 1 {
 		return false
 	}
 	up, right, down, left := n[0], n[2], n[4], n[6]

@@ -13,7 +13,7 @@ func ToBits(g api.Gray, level int) (api.Bits, api.Errno) {
 	if e := CheckGray(g); e != api.OK {
 		return api.Bits{}, e
 	}
-	if level < 0 || level > values {
+	if Outside(level, 0, values) {
 		return api.Bits{}, api.ErrRange
 	}
 	p := Fill(g.W, g.H, func(x, y int) bool { return int(g.P[y*g.W+x]) < level })
@@ -137,7 +137,7 @@ func Means(g api.Gray, radius int) ([]int, api.Errno) {
 	if e := CheckGray(g); e != api.OK {
 		return nil, e
 	}
-	if radius < 0 || radius > maxRadius {
+	if Outside(radius, 0, maxRadius) {
 		return nil, api.ErrRange
 	}
 	around := Around(g.W, g.H, radius, func(x, y int) int { return int(g.P[y*g.W+x]) })
@@ -150,13 +150,23 @@ func Means(g api.Gray, radius int) ([]int, api.Errno) {
 // Around returns a function for the square around a pixel up to radius, as far as it is in a page of w by h: the sum of
 // the values that value tells of its pixels, and how many they are. It leaves the check of all numbers to its caller.
 func Around(w, h, radius int, value func(x, y int) int) func(x, y int) (sum, count int) {
-	sums := sumsBefore(w, h, value)
-	before := func(x, y int) int { return sums[y*(w+1)+x] }
+	total := Sums(w, h, value)
 	return func(x, y int) (sum, count int) {
 		left, right := max(x-radius, 0), min(x+radius+1, w)
 		top, bottom := max(y-radius, 0), min(y+radius+1, h)
-		sum = before(right, bottom) - before(left, bottom) - before(right, top) + before(left, top)
-		return sum, (right - left) * (bottom - top)
+		box := api.Box{X: left, Y: top, W: right - left, H: bottom - top}
+		return total(box), box.W * box.H
+	}
+}
+
+// Sums returns a function for the sum of the values that value tells of the pixels in a box of a page of w by h.
+// It leaves the check of all numbers to its caller.
+func Sums(w, h int, value func(x, y int) int) func(box api.Box) int {
+	sums := sumsBefore(w, h, value)
+	before := func(x, y int) int { return sums[y*(w+1)+x] }
+	return func(box api.Box) int {
+		right, bottom := box.X+box.W, box.Y+box.H
+		return before(right, bottom) - before(box.X, bottom) - before(right, box.Y) + before(box.X, box.Y)
 	}
 }
 

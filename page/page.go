@@ -20,7 +20,7 @@ func check(w, h, pixels int) api.Errno {
 }
 
 func checkSize(w, h int) api.Errno {
-	if w < 1 || h < 1 || w > api.MaxSide || h > api.MaxSide {
+	if Outside(w, 1, api.MaxSide) || Outside(h, 1, api.MaxSide) {
 		return api.ErrRange
 	}
 	if w*h > api.MaxPixels {
@@ -78,3 +78,6 @@ func Fill[T any](w, h int, at func(x, y int) T) []T {
 
 // Rounded is a / b, rounded; a is not negative, and b is positive.
 func Rounded(a, b int) int { return (2*a + b) / (2 * b) }
+
+// Outside reports whether n is not from least to most.
+func Outside(n, least, most int) bool { return n < least || n > most }

@@ -110,7 +110,7 @@ func Grow(b api.Bits, times int) (api.Bits, api.Errno) {
 	if e := CheckBits(b); e != api.OK {
 		return api.Bits{}, e
 	}
-	if times < 1 || times > maxTimes {
+	if Outside(times, 1, maxTimes) {
 		return api.Bits{}, api.ErrRange
 	}
 	w, h := b.W*times, b.H*times

@@ -44,7 +44,7 @@ func checkAlign(a, b api.Bits, reach int) api.Errno {
 	if a.W != b.W || a.H != b.H {
 		return api.ErrConflict
 	}
-	if outside(reach, 0, maxReach) {
+	if page.Outside(reach, 0, maxReach) {
 		return api.ErrRange
 	}
 	return api.OK
@@ -87,7 +87,7 @@ func packed(b api.Bits, dx int) packing {
 
 // row is without ink outside of the page.
 func (p packing) row(y int) []uint64 {
-	if outside(y, 0, p.h-1) {
+	if page.Outside(y, 0, p.h-1) {
 		return p.empty
 	}
 	return p.words[y*p.across : (y+1)*p.across]

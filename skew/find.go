@@ -67,7 +67,7 @@ func checkFind(b api.Bits, most int) api.Errno {
 	if e := page.CheckBits(b); e != api.OK {
 		return e
 	}
-	if outside(most, 0, api.MaxLean) {
+	if page.Outside(most, 0, api.MaxLean) {
 		return api.ErrRange
 	}
 	_, e := page.Bounds(b)

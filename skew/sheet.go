@@ -44,7 +44,7 @@ func Sheet(g api.Gray, level, part int) (api.Box, api.Errno) {
 	if e := page.CheckGray(g); e != api.OK {
 		return api.Box{}, e
 	}
-	if outside(level, 0, maxLevel) || outside(part, 1, wholePart) {
+	if page.Outside(level, 0, maxLevel) || page.Outside(part, 1, wholePart) {
 		return api.Box{}, api.ErrRange
 	}
 	dark, e := page.ToBits(g, level)
