@@ -27,7 +27,7 @@ func Rules(b api.Bits, least int) ([]api.Rail, api.Errno) {
 	}
 	var l []found
 	for _, down := range []bool{false, true} {
-		// Only runs of lines side by side share a side, as between runs of the same line there is a pixel without ink.
+		// Runs of the same row never share a side, as there is a pixel without ink between them; likewise in columns.
 		for _, p := range groupsOfInk(longRuns(b, down, least), clean.BySides) {
 			l = append(l, found{api.Rail{Box: p.Box, Down: down}, p.First})
 		}
