@@ -33,7 +33,7 @@ func Decode(b []byte) (api.Gray, api.Errno) {
 	if !ok || len(p) != w*h {
 		return api.Gray{}, api.ErrSyntax
 	}
-	if e := checkSize(w, h); e != api.OK {
+	if e := CheckSize(w, h); e != api.OK {
 		return api.Gray{}, e
 	}
 	return api.Gray{W: w, H: h, P: slices.Clone(p)}, api.OK
@@ -60,7 +60,7 @@ func Unpack(b []byte) (api.Bits, api.Errno) {
 	if !ok || len(rows) != rowBytes(w)*h || !filledUp(rows, w) {
 		return api.Bits{}, api.ErrSyntax
 	}
-	if e := checkSize(w, h); e != api.OK {
+	if e := CheckSize(w, h); e != api.OK {
 		return api.Bits{}, e
 	}
 	p := Fill(w, h, func(x, y int) bool {
@@ -115,17 +115,12 @@ func cutHeader(b []byte, mark, top string) (w, h int, rest []byte, ok bool) {
 	return w, h, rest, ok
 }
 
-// cutNumber reads a number up to the byte end. A number that begins with 0 is 0 itself, or has superfluous zeros: a side is neither.
+// cutNumber reads a number up to the byte end; a side is not 0.
 func cutNumber(b []byte, end byte) (n int, rest []byte, ok bool) {
 	i := bytes.IndexByte(b, end)
-	if i < 1 || i > maxDigits || b[0] == '0' {
+	if Outside(i, 1, maxDigits) {
 		return 0, nil, false
 	}
-	for _, c := range b[:i] {
-		if !isDigit(c) {
-			return 0, nil, false
-		}
-		n = 10*n + int(c-'0')
-	}
-	return n, b[i+1:], true
+	n, ok = Number(string(b[:i]), maxDigits)
+	return n, b[i+1:], ok && n > 0
 }

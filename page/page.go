@@ -10,7 +10,7 @@ func CheckGray(g api.Gray) api.Errno { return check(g.W, g.H, len(g.P)) }
 func CheckBits(b api.Bits) api.Errno { return check(b.W, b.H, len(b.P)) }
 
 func check(w, h, pixels int) api.Errno {
-	if e := checkSize(w, h); e != api.OK {
+	if e := CheckSize(w, h); e != api.OK {
 		return e
 	}
 	if pixels != w*h {
@@ -19,7 +19,8 @@ func check(w, h, pixels int) api.Errno {
 	return api.OK
 }
 
-func checkSize(w, h int) api.Errno {
+// CheckSize returns what is wrong with the size of a page.
+func CheckSize(w, h int) api.Errno {
 	if Outside(w, 1, api.MaxSide) || Outside(h, 1, api.MaxSide) {
 		return api.ErrRange
 	}
@@ -59,7 +60,7 @@ func isDigit(c byte) bool { return c >= '0' && c <= '9' }
 
 // Blank returns a page without ink.
 func Blank(w, h int) (api.Bits, api.Errno) {
-	if e := checkSize(w, h); e != api.OK {
+	if e := CheckSize(w, h); e != api.OK {
 		return api.Bits{}, e
 	}
 	return api.Bits{W: w, H: h, P: make([]bool, w*h)}, api.OK

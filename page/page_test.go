@@ -59,3 +59,16 @@ func TestBlank(t *testing.T) {
 		failBits(t, "Blank", b, e, want)
 	}
 }
+
+func TestCheckSize(t *testing.T) {
+	for size, want := range map[[2]int]api.Errno{
+		{1, 1}: api.OK, {4000, 1}: api.OK, {1, 4000}: api.OK, {1024, 1024}: api.OK, {4000, 262}: api.OK,
+		{0, 1}: api.ErrRange, {1, 0}: api.ErrRange, {-1, -1}: api.ErrRange, {4001, 1}: api.ErrRange, {1, 4001}: api.ErrRange,
+		{mostInt, mostInt}: api.ErrRange, {leastInt, 1}: api.ErrRange, {1 << 32, 1 << 32}: api.ErrRange,
+		{1025, 1024}: api.ErrLarge, {4000, 263}: api.ErrLarge, {4000, 4000}: api.ErrLarge,
+	} {
+		if e := page.CheckSize(size[0], size[1]); e != want {
+			t.Error(size, e)
+		}
+	}
+}

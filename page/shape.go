@@ -114,7 +114,7 @@ func Grow(b api.Bits, times int) (api.Bits, api.Errno) {
 		return api.Bits{}, api.ErrRange
 	}
 	w, h := b.W*times, b.H*times
-	if e := checkSize(w, h); e != api.OK {
+	if e := CheckSize(w, h); e != api.OK {
 		return api.Bits{}, e
 	}
 	p := Fill(w, h, func(x, y int) bool { return b.P[y/times*b.W+x/times] })

@@ -40,7 +40,7 @@ func Parse(text string) (api.Bits, int, api.Errno) {
 	w, h := strings.IndexByte(text, '\n'), 0
 	for rest := text; rest != ""; h++ {
 		line, after, ended := strings.Cut(rest, "\n")
-		if !ended || len(line) != w || !isRow(line) {
+		if !ended || len(line) != w || !IsRow(line) {
 			return api.Bits{}, h, api.ErrSyntax
 		}
 		rest = after
@@ -55,11 +55,26 @@ func Parse(text string) (api.Bits, int, api.Errno) {
 	return api.Bits{W: w, H: h, P: p}, 0, api.OK
 }
 
-func isRow(line string) bool {
+// IsRow reports whether a line is a row of a page, as Print writes it: at least one `#` or `.`, and nothing else.
+func IsRow(line string) bool {
 	for i := range len(line) {
 		if line[i] != '#' && line[i] != '.' {
 			return false
 		}
 	}
 	return line != ""
+}
+
+// Number reads a number without superfluous zeros, of at most so many digits (up to 18, which an int holds).
+func Number(text string, digits int) (n int, ok bool) {
+	if Outside(len(text), 1, digits) || text[0] == '0' && len(text) > 1 {
+		return 0, false
+	}
+	for i := range len(text) {
+		if !isDigit(text[i]) {
+			return 0, false
+		}
+		n = 10*n + int(text[i]-'0')
+	}
+	return n, true
 }

@@ -114,3 +114,30 @@ func TestParseOfPrint(t *testing.T) {
 		}
 	}
 }
+
+func TestIsRow(t *testing.T) {
+	for line, want := range map[string]bool{
+		"#": true, ".": true, "#..#": true, strings.Repeat("#", 5000): true,
+		"": false, " ": false, "#\n": false, "..x": false, "# #": false, "\x00": false, "0": false,
+	} {
+		if page.IsRow(line) != want {
+			t.Errorf("%.20q", line)
+		}
+	}
+}
+
+func TestNumber(t *testing.T) {
+	for text, want := range map[string]int{"0": 0, "7": 7, "10": 10, "999": 999, "305": 305} {
+		if n, ok := page.Number(text, 3); n != want || !ok {
+			t.Errorf("%q: %d %v", text, n, ok)
+		}
+	}
+	for _, text := range []string{"", "00", "07", "000", "1000", "-1", "+1", " 1", "1 ", "1.", "1a", "a", "/", ":", "\x00", "\xb2", "99999999999999999999"} {
+		if n, ok := page.Number(text, 3); n != 0 || ok {
+			t.Errorf("%q: %d %v", text, n, ok)
+		}
+	}
+	if n, ok := page.Number(strings.Repeat("9", 18), 18); n != 1e18-1 || !ok {
+		t.Error(n, ok)
+	}
+}
