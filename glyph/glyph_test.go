@@ -163,3 +163,13 @@ func TestLetter(t *testing.T) {
 		}
 	}
 }
+
+func TestIsVisible(t *testing.T) {
+	for text, want := range map[string]bool{
+		"a": true, "!~": true, "abcdef": true, "": false, " ": false, "a b": false, "\x7f": false, "a\x00": false, "ä": false, "a\n": false, "\xff": false,
+	} {
+		if glyph.IsVisible(text) != want {
+			t.Errorf("%q", text)
+		}
+	}
+}

@@ -167,3 +167,27 @@ func TestApartByPlaces(t *testing.T) {
 		}
 	}
 }
+
+// TestDiffer lays shapes on all places of a page in which they lie.
+func TestDiffer(t *testing.T) {
+	ground := mixedBits(1, 12, 150, 128)
+	whole := glyph.ShapeOf(ground)
+	for _, h := range []int{1, 2, 63, 64, 65, 127, 128, 129, 150} {
+		b := mixedBits(h, 5, h, 128)
+		s := glyph.ShapeOf(b)
+		for y := range 150 - h + 1 {
+			rows := whole.Below(y)
+			for x := range 12 - 5 + 1 {
+				n := 0
+				for i, ink := range b.P {
+					if ink != at(ground, x+i%5, y+i/5) {
+						n++
+					}
+				}
+				if got := s.Differ(rows, x); got != n {
+					t.Fatal(h, x, y, got, n)
+				}
+			}
+		}
+	}
+}

@@ -81,7 +81,7 @@ func recognizer(f api.Font, most int) func(piece api.Bits) api.Seen {
 		asWide := slices.DeleteFunc(slices.Clone(signs), func(s sign) bool {
 			return page.Outside(s.shape.w, piece.W-widerMost, piece.W+widerMost)
 		})
-		near := nearest(asWide, shapeOf(piece), readReach)
+		near := nearest(asWide, ShapeOf(piece), readReach)
 		if len(near) == 0 || near[0].Distance*whole > most*f.Height*piece.W {
 			return api.Seen{Text: unknown, Distance: noDistance, Second: noDistance}
 		}

@@ -89,17 +89,10 @@ func stack(l []lineup, height, lead int) (api.Bits, api.Errno) {
 	}
 	for i, row := range l {
 		for _, letter := range row.letters {
-			put(b, letter.bits, letter.x, i*step)
+			page.Put(b, letter.bits, letter.x, i*step)
 		}
 	}
 	return b, api.OK
-}
-
-// put writes a shape into a page of its own, where it goes in whole.
-func put(b, c api.Bits, x, y int) {
-	for row := range c.H {
-		copy(b.P[(y+row)*b.W+x:], c.P[row*c.W:(row+1)*c.W])
-	}
 }
 
 // Fit breaks a text into lines that are at most most wide, as far as its words permit.

@@ -41,10 +41,10 @@ func Parse(text string) (api.Font, int, api.Errno) {
 	if len(text) > api.MaxText {
 		return api.Font{}, 0, api.ErrLarge
 	}
-	r := reader{rest: text}
-	f, ok := r.font()
+	lines := page.Lines{Rest: text}
+	f, ok := readFont(&lines)
 	if !ok {
-		return api.Font{}, r.at, api.ErrSyntax
+		return api.Font{}, lines.At, api.ErrSyntax
 	}
 	if e := Check(f); e != api.OK {
 		return api.Font{}, 0, e
@@ -52,31 +52,13 @@ func Parse(text string) (api.Font, int, api.Errno) {
 	return f, 0, api.OK
 }
 
-// A reader goes through the lines of a text: rest is what is left of it, at the number of the next line.
-type reader struct {
-	rest string
-	at   int
-}
-
-// next goes on behind a line, if it ends with a line feed, and accept takes it. Otherwise at stays its number: that of
-// the line that cannot stand there, or, if there is none any more, how many there were.
-func (r *reader) next(accept func(line string) bool) bool {
-	line, rest, ended := strings.Cut(r.rest, "\n")
-	if !ended || !accept(line) {
-		return false
-	}
-	r.rest = rest
-	r.at++
-	return true
-}
-
-// font reads the lines of a font, whatever its numbers and letters are.
-func (r *reader) font() (f api.Font, ok bool) {
-	if !r.next(func(line string) bool { return readHead(line, &f) }) {
+// readFont reads the lines of a font, whatever its numbers and letters are.
+func readFont(lines *page.Lines) (f api.Font, ok bool) {
+	if !lines.Next(func(line string) bool { return readHead(line, &f) }) {
 		return f, false
 	}
-	for r.rest != "" {
-		letter, ok := r.letter(f.Height)
+	for lines.Rest != "" {
+		letter, ok := readLetter(lines, f.Height)
 		if !ok {
 			return f, false
 		}
@@ -87,30 +69,24 @@ func (r *reader) font() (f api.Font, ok bool) {
 
 func readHead(line string, f *api.Font) bool {
 	words := strings.Split(line, space)
-	if len(words) != 5 || words[0] != fontMark || words[1] == "" {
+	if len(words) < 2 || words[0] != fontMark || words[1] == "" {
 		return false
 	}
 	f.Name = words[1]
-	for i, n := range []*int{&f.Height, &f.Gap, &f.Space} {
-		var ok bool
-		if *n, ok = page.Number(words[2+i], maxDigits); !ok {
-			return false
-		}
-	}
-	return true
+	return page.Numbers(words[2:], maxDigits, &f.Height, &f.Gap, &f.Space)
 }
 
-func (r *reader) letter(height int) (letter api.Letter, ok bool) {
+func readLetter(lines *page.Lines, height int) (letter api.Letter, ok bool) {
 	head := func(line string) bool {
 		mark, text, _ := strings.Cut(line, space)
 		letter.Text = text
-		return mark == letterMark && isVisible(text)
+		return mark == letterMark && IsVisible(text)
 	}
-	if !r.next(head) {
+	if !lines.Next(head) {
 		return letter, false
 	}
 	for range height {
-		if !r.next(func(line string) bool { return addRow(&letter.Bits, line) }) {
+		if !lines.Next(func(line string) bool { return addRow(&letter.Bits, line) }) {
 			return letter, false
 		}
 	}

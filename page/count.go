@@ -51,7 +51,7 @@ func Ink(b api.Bits, box api.Box) (int, api.Errno) {
 	if e := CheckBits(b); e != api.OK {
 		return 0, e
 	}
-	if e := checkBox(b.W, b.H, box); e != api.OK {
+	if e := CheckPlace(b.W, b.H, box); e != api.OK {
 		return 0, e
 	}
 	n := 0

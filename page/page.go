@@ -30,8 +30,8 @@ func CheckSize(w, h int) api.Errno {
 	return api.OK
 }
 
-// checkBox wants the box in a page of this size; it subtracts, as X + W and Y + H can be beyond what an int holds.
-func checkBox(w, h int, box api.Box) api.Errno {
+// CheckPlace wants the box in a page of this size; it subtracts, as X + W and Y + H can be beyond what an int holds.
+func CheckPlace(w, h int, box api.Box) api.Errno {
 	if box.W < 1 || box.H < 1 || box.X < 0 || box.Y < 0 {
 		return api.ErrPlace
 	}
@@ -52,6 +52,21 @@ func IsName(s string) bool {
 		}
 	}
 	return true
+}
+
+// NameChecker returns a function for the names of a list, of which no two are equal.
+func NameChecker() func(name string) api.Errno {
+	known := map[string]bool{}
+	return func(name string) api.Errno {
+		if !IsName(name) {
+			return api.ErrName
+		}
+		if known[name] {
+			return api.ErrTwice
+		}
+		known[name] = true
+		return api.OK
+	}
 }
 
 func isSmall(c byte) bool { return c >= 'a' && c <= 'z' }

@@ -72,3 +72,31 @@ func TestCheckSize(t *testing.T) {
 		}
 	}
 }
+
+func TestCheckPlace(t *testing.T) {
+	for box, want := range map[api.Box]api.Errno{
+		{W: 1, H: 1}: api.OK, {W: 5, H: 3}: api.OK, {X: 4, Y: 2, W: 1, H: 1}: api.OK, {X: 2, Y: 1, W: 3, H: 2}: api.OK,
+		{}: api.ErrPlace, {W: 0, H: 1}: api.ErrPlace, {W: 1, H: 0}: api.ErrPlace, {W: -1, H: 1}: api.ErrPlace, {X: -1, W: 1, H: 1}: api.ErrPlace, {Y: -1, W: 1, H: 1}: api.ErrPlace,
+		{X: 5, W: 1, H: 1}: api.ErrPlace, {Y: 3, W: 1, H: 1}: api.ErrPlace, {W: 6, H: 1}: api.ErrPlace, {W: 1, H: 4}: api.ErrPlace, {X: 3, W: 3, H: 1}: api.ErrPlace, {Y: 2, W: 1, H: 2}: api.ErrPlace,
+		{X: mostInt, W: mostInt, H: 1}: api.ErrPlace, {Y: mostInt, W: 1, H: mostInt}: api.ErrPlace, {X: leastInt, W: mostInt, H: 1}: api.ErrPlace, {W: leastInt, H: 1}: api.ErrPlace,
+	} {
+		if e := page.CheckPlace(5, 3, box); e != want {
+			t.Error(box, e)
+		}
+	}
+}
+
+func TestNameChecker(t *testing.T) {
+	first, second := page.NameChecker(), page.NameChecker()
+	for _, c := range []struct {
+		name string
+		want api.Errno
+	}{{"a", api.OK}, {"b", api.OK}, {"a", api.ErrTwice}, {"A", api.ErrName}, {"", api.ErrName}, {"A", api.ErrName}, {"c", api.OK}, {"b", api.ErrTwice}} {
+		if e := first(c.name); e != c.want {
+			t.Errorf("%q: %d, want %d", c.name, e, c.want)
+		}
+	}
+	if e := second("a"); e != api.OK {
+		t.Error("two lists know each other's names", e)
+	}
+}

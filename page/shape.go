@@ -13,7 +13,7 @@ func Cut(b api.Bits, box api.Box) (api.Bits, api.Errno) {
 	if e := CheckBits(b); e != api.OK {
 		return api.Bits{}, e
 	}
-	if e := checkBox(b.W, b.H, box); e != api.OK {
+	if e := CheckPlace(b.W, b.H, box); e != api.OK {
 		return api.Bits{}, e
 	}
 	return api.Bits{W: box.W, H: box.H, P: cut(b.P, b.W, box)}, api.OK
@@ -24,7 +24,7 @@ func CutGray(g api.Gray, box api.Box) (api.Gray, api.Errno) {
 	if e := CheckGray(g); e != api.OK {
 		return api.Gray{}, e
 	}
-	if e := checkBox(g.W, g.H, box); e != api.OK {
+	if e := CheckPlace(g.W, g.H, box); e != api.OK {
 		return api.Gray{}, e
 	}
 	return api.Gray{W: box.W, H: box.H, P: cut(g.P, g.W, box)}, api.OK
@@ -149,4 +149,12 @@ func overlap(whole, side, at int) (from, to int) {
 		return 0, 0
 	}
 	return max(-at, 0), min(side, whole-at)
+}
+
+// Put writes a page, also what has no ink, into a page of the caller's own, in which it lies; it leaves the check of all
+// arguments to its caller.
+func Put(b, c api.Bits, x, y int) {
+	for row := range c.H {
+		copy(b.P[(y+row)*b.W+x:], c.P[row*c.W:(row+1)*c.W])
+	}
 }

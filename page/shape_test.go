@@ -163,3 +163,23 @@ func TestPaste(t *testing.T) {
 	x, e = page.Paste(draw("..."), draw("#####"), -1, 0)
 	wantBits(t, "Paste of a wider page", x, e, draw("###"))
 }
+
+func TestPut(t *testing.T) {
+	for x := range 4 {
+		for y := range 3 {
+			b, c := mixedBits(7, 5), mixedBits(4, 3)
+			old := b.P
+			b.P = append([]bool(nil), old...)
+			page.Put(b, c, x, y)
+			for i, ink := range b.P {
+				want := old[i]
+				if px, py := i%7-x, i/7-y; px >= 0 && px < 4 && py >= 0 && py < 3 {
+					want = c.P[py*4+px]
+				}
+				if ink != want {
+					t.Error(x, y, i)
+				}
+			}
+		}
+	}
+}

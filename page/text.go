@@ -78,3 +78,42 @@ func Number(text string, digits int) (n int, ok bool) {
 	}
 	return n, true
 }
+
+// Numbers reads a number for each word, as Number does, if there are just as many words as numbers.
+func Numbers(words []string, digits int, numbers ...*int) bool {
+	if len(words) != len(numbers) {
+		return false
+	}
+	for i, n := range numbers {
+		var ok bool
+		if *n, ok = Number(words[i], digits); !ok {
+			return false
+		}
+	}
+	return true
+}
+
+// Lines goes through the lines of a text: Rest is what is left of it, At the number of the next line.
+type Lines struct {
+	Rest string
+	At   int
+}
+
+// Next goes on behind a line, if it ends with a line feed, and accept takes it. Otherwise At stays its number: that of
+// the line that cannot stand there, or, if there is none any more, how many there were.
+func (l *Lines) Next(accept func(line string) bool) bool {
+	line, rest, ended := strings.Cut(l.Rest, "\n")
+	if !ended || !accept(line) {
+		return false
+	}
+	l.Rest = rest
+	l.At++
+	return true
+}
+
+// Each goes on behind all lines that accept takes, up to the first one that it does not.
+func (l *Lines) Each(accept func(line string) bool) {
+	for l.Next(accept) {
+		continue
+	}
+}

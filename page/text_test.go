@@ -1,6 +1,7 @@
 package page_test
 
 import (
+	"strconv"
 	"strings"
 	"testing"
 
@@ -139,5 +140,58 @@ func TestNumber(t *testing.T) {
 	}
 	if n, ok := page.Number(strings.Repeat("9", 18), 18); n != 1e18-1 || !ok {
 		t.Error(n, ok)
+	}
+}
+
+func TestNumbers(t *testing.T) {
+	for _, c := range []struct {
+		words []string
+		want  bool
+	}{
+		{[]string{"7", "305"}, true}, {[]string{"0", "999"}, true}, {[]string{"7"}, false}, {nil, false}, {[]string{"7", "305", "1"}, false},
+		{[]string{"x", "1"}, false}, {[]string{"1", "x"}, false}, {[]string{"1", "1000"}, false}, {[]string{"01", "1"}, false}, {[]string{"", ""}, false},
+	} {
+		var a, b int
+		if ok := page.Numbers(c.words, 3, &a, &b); ok != c.want {
+			t.Errorf("%q: %v", c.words, ok)
+		} else if ok && (strconv.Itoa(a) != c.words[0] || strconv.Itoa(b) != c.words[1]) {
+			t.Errorf("%q: %d %d", c.words, a, b)
+		}
+	}
+	if !page.Numbers(nil, 3) {
+		t.Error("no words are no numbers")
+	}
+}
+
+func TestLines(t *testing.T) {
+	l := page.Lines{Rest: "a\n\nb\nc"}
+	is := func(want string) func(line string) bool { return func(line string) bool { return line == want } }
+	for i, c := range []struct {
+		line, rest string
+		at         int
+		ok         bool
+	}{
+		{"b", "a\n\nb\nc", 0, false}, {"a", "\nb\nc", 1, true}, {"b", "\nb\nc", 1, false}, {"", "b\nc", 2, true}, {"b", "c", 3, true}, {"c", "c", 3, false}, {"", "c", 3, false},
+	} {
+		if ok := l.Next(is(c.line)); ok != c.ok || l.Rest != c.rest || l.At != c.at {
+			t.Errorf("%d: %v %q %d", i, ok, l.Rest, l.At)
+		}
+	}
+	l = page.Lines{Rest: "a\na\nb\na\n"}
+	l.Each(is("a"))
+	if l.Rest != "b\na\n" || l.At != 2 {
+		t.Errorf("%q %d", l.Rest, l.At)
+	}
+	l.Each(is("a"))
+	if l.At != 2 {
+		t.Error(l.At)
+	}
+	l.Each(func(string) bool { return true })
+	if l.Rest != "" || l.At != 4 {
+		t.Errorf("%q %d", l.Rest, l.At)
+	}
+	l = page.Lines{}
+	if l.Next(func(string) bool { return true }) || l.At != 0 {
+		t.Error("a text without lines has one")
 	}
 }

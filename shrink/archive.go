@@ -33,7 +33,7 @@ func Pack(l []api.Named, kind int) (string, api.Errno) {
 }
 
 func checkPages(l []api.Named, kind int) api.Errno {
-	check := nameChecker()
+	check := page.NameChecker()
 	for _, n := range l {
 		if e := check(n.Name); e != api.OK {
 			return e
@@ -46,21 +46,6 @@ func checkPages(l []api.Named, kind int) api.Errno {
 		return api.ErrKind
 	}
 	return api.OK
-}
-
-// nameChecker returns a function for names of which no two are equal.
-func nameChecker() func(name string) api.Errno {
-	known := map[string]bool{}
-	return func(name string) api.Errno {
-		if !page.IsName(name) {
-			return api.ErrName
-		}
-		if known[name] {
-			return api.ErrTwice
-		}
-		known[name] = true
-		return api.OK
-	}
 }
 
 // A binder gathers what an archive will have: how many pages, what its head tells of them, and the pages.
@@ -113,7 +98,7 @@ func List(archive string) ([]api.Entry, api.Errno) {
 	if SumOf(head) != archive[len(archive)-sumBytes:] {
 		return nil, api.ErrSum
 	}
-	check := nameChecker()
+	check := page.NameChecker()
 	for _, entry := range l {
 		if e := check(entry.Name); e != api.OK {
 			return nil, e

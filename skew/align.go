@@ -14,24 +14,21 @@ const (
 	wordBits = 64
 )
 
-// A placing is by how much a page is moved, and at how many places it then differs.
-type placing struct{ dx, dy, differ int }
-
 // Align looks how b lies on a: where it differs least when it is moved by up to reach, and at how many places then.
 func Align(a, b api.Bits, reach int) (int, int, int, api.Errno) {
 	if e := checkAlign(a, b, reach); e != api.OK {
 		return 0, 0, 0, e
 	}
 	ground := packed(a, 0)
-	var tried []placing
+	var tried []api.Found
 	for dx := -reach; dx <= reach; dx++ {
 		cover := packed(b, dx)
 		for dy := -reach; dy <= reach; dy++ {
-			tried = append(tried, placing{dx, dy, ground.differ(cover, dy)})
+			tried = append(tried, api.Found{DX: dx, DY: dy, Distance: ground.differ(cover, dy)})
 		}
 	}
-	p := slices.MinFunc(tried, comparePlacings)
-	return p.dx, p.dy, p.differ, api.OK
+	p := slices.MinFunc(tried, ComparePlacings)
+	return p.DX, p.DY, p.Distance, api.OK
 }
 
 func checkAlign(a, b api.Bits, reach int) api.Errno {
@@ -50,17 +47,18 @@ func checkAlign(a, b api.Bits, reach int) api.Errno {
 	return api.OK
 }
 
-// comparePlacings finds no two equal ones, so that the order in which they were tried does not matter.
-func comparePlacings(p, q placing) int {
+// ComparePlacings puts that ahead which differs less, then that which is moved less. It finds no two equal ones, so that
+// the order in which they were tried does not matter.
+func ComparePlacings(p, q api.Found) int {
 	return cmp.Or(
-		cmp.Compare(p.differ, q.differ),
-		cmp.Compare(p.far(), q.far()),
-		cmp.Compare(p.dy, q.dy),
-		cmp.Compare(p.dx, q.dx),
+		cmp.Compare(p.Distance, q.Distance),
+		cmp.Compare(far(p), far(q)),
+		cmp.Compare(p.DY, q.DY),
+		cmp.Compare(p.DX, q.DX),
 	)
 }
 
-func (p placing) far() int { return max(p.dx, -p.dx) + max(p.dy, -p.dy) }
+func far(p api.Found) int { return max(p.DX, -p.DX) + max(p.DY, -p.DY) }
 
 // A packing is a page with 64 pixels in a word, so that they are compared at once. Each row begins with a word of its own.
 type packing struct {
